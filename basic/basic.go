@@ -1,0 +1,88 @@
+// Package basic has what several chapters share: the rules for numbers, moments, windows and names, and the walk through two lists in order.
+package basic
+
+import (
+	"strconv"
+	"strings"
+
+	"plantlog/api"
+)
+
+// Within reports whether n is from low to high.
+func Within(n, low, high int) bool { return low <= n && n <= high }
+
+// Moment reports whether n is a moment.
+func Moment(n int) bool { return Within(n, 0, api.End-1) }
+
+// Window reports whether w lies within all moments; it may be empty.
+func Window(w api.Window) bool {
+	return 0 <= w.From && w.From <= w.To && w.To <= api.End
+}
+
+// Inside reports whether n is in w.
+func Inside(n int, w api.Window) bool { return w.From <= n && n < w.To }
+
+// Key reports whether s is a key.
+func Key(s string) bool {
+	if s == "" || len(s) > api.MaxName || !small(s[0]) {
+		return false
+	}
+	for i := range len(s) {
+		c := s[i]
+		if !small(c) && (c < '0' || c > '9') && c != '-' && c != '_' {
+			return false
+		}
+	}
+	return true
+}
+
+func small(c byte) bool { return 'a' <= c && c <= 'z' }
+
+// Lowest reports whether f is in lowest terms, with Den above 0.
+func Lowest(f api.Fraction) bool {
+	if f.Den <= 0 {
+		return false
+	}
+	a, b := f.Num, f.Den
+	for b != 0 {
+		a, b = b, a%b
+	}
+	// The divisor keeps the sign of a remainder: the least int has no absolute value to begin with.
+	return a == 1 || a == -1
+}
+
+// Number reads a number as it is written in strings (Z10), of at most `most` digits; false if s is none.
+func Number(s string, most int) (int, bool) {
+	if len(strings.TrimPrefix(s, "-")) > most {
+		return 0, false
+	}
+	n, err := strconv.Atoi(s)
+	if err != nil || strconv.Itoa(n) != s {
+		return 0, false
+	}
+	return n, true
+}
+
+// Align goes through two lists that rise by order: in this order, it calls one for each element that has no equal one in the other list, and both for two equal ones, that of a first.
+func Align[T any](a, b []T, order func(x, y T) int, one func(x T), both func(x, y T)) {
+	for len(a) > 0 && len(b) > 0 {
+		c := order(a[0], b[0])
+		switch {
+		case c < 0:
+			one(a[0])
+			a = a[1:]
+		case c > 0:
+			one(b[0])
+			b = b[1:]
+		default:
+			both(a[0], b[0])
+			a, b = a[1:], b[1:]
+		}
+	}
+	for _, x := range a {
+		one(x)
+	}
+	for _, x := range b {
+		one(x)
+	}
+}

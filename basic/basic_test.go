@@ -1,0 +1,130 @@
+package basic_test
+
+import (
+	"cmp"
+	"fmt"
+	"math"
+	"strings"
+	"testing"
+
+	"plantlog/api"
+	"plantlog/basic"
+)
+
+func TestZ11Moments(t *testing.T) {
+	for n, want := range map[int]bool{0: true, 1: true, api.End - 1: true, -1: false, api.End: false, math.MinInt: false, math.MaxInt: false} {
+		if basic.Moment(n) != want {
+			t.Errorf("Moment(%d) is not %v", n, want)
+		}
+	}
+}
+
+func TestWindows(t *testing.T) {
+	for w, want := range map[api.Window]bool{
+		{}:                                   true,
+		{From: 0, To: api.End}:               true,
+		{From: api.End, To: api.End}:         true,
+		{From: 5, To: 4}:                     false,
+		{From: -1, To: 4}:                    false,
+		{From: 0, To: api.End + 1}:           false,
+		{From: math.MinInt, To: 0}:           false,
+		{From: 0, To: math.MinInt}:           false,
+		{From: math.MaxInt, To: math.MaxInt}: false,
+	} {
+		if basic.Window(w) != want {
+			t.Errorf("Window(%v) is not %v", w, want)
+		}
+	}
+	w := api.Window{From: 3, To: 5}
+	for n, want := range map[int]bool{2: false, 3: true, 4: true, 5: false} {
+		if basic.Inside(n, w) != want {
+			t.Errorf("Inside(%d, %v) is not %v", n, w, want)
+		}
+	}
+}
+
+func TestZ11Keys(t *testing.T) {
+	for s, want := range map[string]bool{
+		"a": true, "a0": true, "z9-_": true, "pump-1_a": true, strings.Repeat("a", api.MaxName): true,
+		"": false, strings.Repeat("a", api.MaxName+1): false,
+		"1a": false, "-a": false, "_a": false, "A": false, "aB": false, "a b": false, "a.": false,
+		"a\n": false, "a\x00": false, "ä": false, "aä": false, "a{": false, "a`": false, "a/": false, "a:": false, "{": false, "`": false,
+	} {
+		if basic.Key(s) != want {
+			t.Errorf("Key(%q) is not %v", s, want)
+		}
+	}
+}
+
+func TestLowestTerms(t *testing.T) {
+	for f, want := range map[api.Fraction]bool{
+		{Num: 0, Den: 1}:                         true,
+		{Num: 1, Den: 1}:                         true,
+		{Num: -3, Den: 2}:                        true,
+		{Num: 3, Den: 2}:                         true,
+		{Num: math.MinInt, Den: 1}:               true,
+		{Num: math.MinInt, Den: math.MaxInt}:     true,
+		{Num: math.MaxInt - 1, Den: math.MaxInt}: true,
+		{Num: 0, Den: 2}:                         false,
+		{Num: 2, Den: 4}:                         false,
+		{Num: -2, Den: 4}:                        false,
+		{Num: math.MinInt, Den: 2}:               false,
+		{Num: math.MaxInt, Den: math.MaxInt}:     false,
+		{Num: 1, Den: 0}:                         false,
+		{Num: 0, Den: 0}:                         false,
+		{Num: 1, Den: -1}:                        false,
+		{Num: math.MinInt, Den: math.MinInt}:     false,
+		{Num: math.MinInt, Den: -1}:              false,
+	} {
+		if basic.Lowest(f) != want {
+			t.Errorf("Lowest(%v) is not %v", f, want)
+		}
+	}
+}
+
+func TestZ10Numbers(t *testing.T) {
+	for s, want := range map[string]int{"0": 0, "7": 7, "-7": -7, "10": 10, "123456789012345": 123456789012345, "-123456789012345": -123456789012345} {
+		if n, ok := basic.Number(s, 15); n != want || !ok {
+			t.Errorf("Number(%q) is %d, %v", s, n, ok)
+		}
+	}
+	for _, s := range []string{"", "-", "-0", "00", "01", "-01", "+1", "--1", " 1", "1 ", "1_0", "0x1", "1.0", "1e3", "a", "١", "1234567890123456", "-1234567890123456", strings.Repeat("9", 1000)} {
+		if n, ok := basic.Number(s, 15); n != 0 || ok {
+			t.Errorf("Number(%q) is %d, %v", s, n, ok)
+		}
+	}
+	if n, ok := basic.Number("9223372036854775807", 19); n != math.MaxInt || !ok {
+		t.Errorf("the greatest int is %d, %v", n, ok)
+	}
+	if n, ok := basic.Number("9223372036854775808", 19); n != 0 || ok {
+		t.Errorf("a number that is not an int is %d, %v", n, ok)
+	}
+}
+
+func TestAlign(t *testing.T) {
+	for _, c := range []struct {
+		a, b []int
+		want string
+	}{
+		{nil, nil, ""},
+		{[]int{1, 2}, nil, " 1 2"},
+		{nil, []int{1, 2}, " 1 2"},
+		{[]int{1, 3, 5}, []int{2, 3, 4}, " 1 2 3=3 4 5"},
+		{[]int{4, 5}, []int{1, 2, 6}, " 1 2 4 5 6"},
+	} {
+		got := ""
+		basic.Align(c.a, c.b, cmp.Compare[int],
+			func(x int) { got += fmt.Sprintf(" %d", x) },
+			func(x, y int) { got += fmt.Sprintf(" %d=%d", x, y) })
+		if got != c.want {
+			t.Errorf("Align(%v, %v) is %q", c.a, c.b, got)
+		}
+	}
+	basic.Align([]string{"ax"}, []string{"ay"}, func(x, y string) int { return cmp.Compare(x[0], y[0]) },
+		func(string) { t.Error("an element with an equal one alone") },
+		func(x, y string) {
+			if x != "ax" || y != "ay" {
+				t.Errorf("%q before %q", x, y)
+			}
+		})
+}
