@@ -40,15 +40,31 @@ func small(c byte) bool { return 'a' <= c && c <= 'z' }
 
 // Lowest reports whether f is in lowest terms, with Den above 0.
 func Lowest(f api.Fraction) bool {
-	if f.Den <= 0 {
-		return false
-	}
-	a, b := f.Num, f.Den
+	return f.Den > 0 && divisor(f.Num, f.Den) == 1
+}
+
+// Reduced returns a quotient in lowest terms; divided by a number above 0.
+func Reduced(number, by int) api.Fraction {
+	d := divisor(number, by)
+	return api.Fraction{Num: number / d, Den: by / d}
+}
+
+// divisor returns the greatest common divisor of a number and one above 0.
+func divisor(a, b int) int {
 	for b != 0 {
 		a, b = b, a%b
 	}
-	// The divisor keeps the sign of a remainder: the least int has no absolute value to begin with.
-	return a == 1 || a == -1
+	// A remainder keeps its sign up to here: the least int has no absolute value to begin with.
+	return max(a, -a)
+}
+
+// Distance returns by how much two numbers differ, if that is an int.
+func Distance(a, b int) int { return max(a-b, b-a) }
+
+// OnLine returns the value at a moment on the straight line between two samples. It is exact: by the limits of samples, all products are far below the greatest int.
+func OnLine(p, n api.Sample, at int) api.Fraction {
+	long := n.At - p.At
+	return Reduced(p.Value*long+(n.Value-p.Value)*(at-p.At), long)
 }
 
 // Number reads a number as it is written in strings (Z10), of at most `most` digits; false if s is none.

@@ -82,6 +82,57 @@ func TestLowestTerms(t *testing.T) {
 	}
 }
 
+func TestReduced(t *testing.T) {
+	for _, c := range []struct {
+		number, by int
+		want       api.Fraction
+	}{
+		{0, 1, api.Fraction{Num: 0, Den: 1}},
+		{0, 12, api.Fraction{Num: 0, Den: 1}},
+		{12, 18, api.Fraction{Num: 2, Den: 3}},
+		{-12, 18, api.Fraction{Num: -2, Den: 3}},
+		{18, 12, api.Fraction{Num: 3, Den: 2}},
+		{-18, 9, api.Fraction{Num: -2, Den: 1}},
+		{7, 9, api.Fraction{Num: 7, Den: 9}},
+		{math.MinInt, 6, api.Fraction{Num: math.MinInt / 2, Den: 3}},
+		{math.MinInt, math.MaxInt, api.Fraction{Num: math.MinInt, Den: math.MaxInt}},
+		{math.MaxInt, math.MaxInt, api.Fraction{Num: 1, Den: 1}},
+	} {
+		if got := basic.Reduced(c.number, c.by); got != c.want {
+			t.Errorf("%d by %d is %v, not %v", c.number, c.by, got, c.want)
+		}
+	}
+}
+
+func TestDistance(t *testing.T) {
+	for _, c := range [][3]int{{0, 0, 0}, {3, 5, 2}, {5, 3, 2}, {-3, 5, 8}, {-3, -5, 2}, {api.MaxValue, -api.MaxValue, 2 * api.MaxValue}} {
+		if got := basic.Distance(c[0], c[1]); got != c[2] {
+			t.Errorf("from %d to %d: %d", c[0], c[1], got)
+		}
+	}
+}
+
+func TestOnLine(t *testing.T) {
+	const half = api.End/2 - 1
+	for _, c := range []struct {
+		p, n api.Sample
+		at   int
+		want api.Fraction
+	}{
+		{api.Sample{At: 0, Value: 0}, api.Sample{At: 10, Value: 20}, 5, api.Fraction{Num: 10, Den: 1}},
+		{api.Sample{At: 10, Value: 5}, api.Sample{At: 13, Value: 0}, 11, api.Fraction{Num: 10, Den: 3}},
+		{api.Sample{At: 10, Value: 5}, api.Sample{At: 13, Value: 0}, 10, api.Fraction{Num: 5, Den: 1}},
+		{api.Sample{At: 10, Value: -5}, api.Sample{At: 14, Value: 5}, 12, api.Fraction{Num: 0, Den: 1}},
+		{api.Sample{At: 0, Value: api.MaxValue}, api.Sample{At: 2 * half, Value: -api.MaxValue}, half, api.Fraction{Num: 0, Den: 1}},
+		{api.Sample{At: 0, Value: -api.MaxValue}, api.Sample{At: 2 * half, Value: api.MaxValue}, 2*half - 1, api.Fraction{Num: api.MaxValue*half - api.MaxValue, Den: half}},
+	} {
+		want := basic.Reduced(c.want.Num, c.want.Den)
+		if got := basic.OnLine(c.p, c.n, c.at); got != want {
+			t.Errorf("from %v to %v at %d: %v, not %v", c.p, c.n, c.at, got, want)
+		}
+	}
+}
+
 func TestZ10Numbers(t *testing.T) {
 	for s, want := range map[string]int{"0": 0, "7": 7, "-7": -7, "10": 10, "123456789012345": 123456789012345, "-123456789012345": -123456789012345} {
 		if n, ok := basic.Number(s, 15); n != want || !ok {

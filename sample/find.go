@@ -88,6 +88,5 @@ func Jumps(l []api.Sample, rate api.Fraction) ([]int, api.Errno) {
 
 // faster compares products instead of quotients to be exact; by the limits, both are far below the greatest int.
 func faster(x, y api.Sample, rate api.Fraction) bool {
-	difference := max(x.Value-y.Value, y.Value-x.Value)
-	return difference*rate.Den > rate.Num*(y.At-x.At)
+	return basic.Distance(x.Value, y.Value)*rate.Den > rate.Num*(y.At-x.At)
 }
