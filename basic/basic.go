@@ -2,6 +2,7 @@
 package basic
 
 import (
+	"cmp"
 	"strconv"
 	"strings"
 
@@ -21,6 +22,9 @@ func Window(w api.Window) bool {
 
 // Inside reports whether n is in w.
 func Inside(n int, w api.Window) bool { return w.From <= n && n < w.To }
+
+// ByMoment orders samples by time.
+func ByMoment(x, y api.Sample) int { return cmp.Compare(x.At, y.At) }
 
 // Key reports whether s is a key.
 func Key(s string) bool {

@@ -143,7 +143,7 @@ func Changes(l []api.Sample, f []api.Fix, from, to int) ([]int, api.Errno) {
 func differing(a, b []api.Sample) []int {
 	var moments []int
 	add := func(x api.Sample) { moments = append(moments, x.At) }
-	basic.Align(a, b, byMoment, add, func(x, y api.Sample) {
+	basic.Align(a, b, basic.ByMoment, add, func(x, y api.Sample) {
 		if x != y {
 			add(x)
 		}

@@ -2,7 +2,6 @@
 package sample
 
 import (
-	"cmp"
 	"slices"
 	"sort"
 
@@ -52,7 +51,7 @@ func Merge(a, b []api.Sample) ([]api.Sample, api.Errno) {
 	}
 	var merged []api.Sample
 	add := func(x api.Sample) { merged = append(merged, x) }
-	basic.Align(a, b, byMoment, add, func(x, y api.Sample) { add(better(x, y)) })
+	basic.Align(a, b, basic.ByMoment, add, func(x, y api.Sample) { add(better(x, y)) })
 	if len(merged) > api.MaxSamples {
 		return nil, api.ErrLarge
 	}
@@ -68,8 +67,6 @@ func checkEach[T any](check func([]T) api.Errno, lists ...[]T) api.Errno {
 	}
 	return api.OK
 }
-
-func byMoment(x, y api.Sample) int { return cmp.Compare(x.At, y.At) }
 
 func better(x, y api.Sample) api.Sample {
 	if x.Quality < y.Quality || x.Quality == y.Quality && x.Value > y.Value {
