@@ -1,8 +1,9 @@
-// Package basic has what several chapters share: the rules for numbers, moments, windows and names, and the walk through two lists in order.
+// Package basic has what several chapters share: the rules for numbers, moments, windows, qualities, values and names, and the walk through two lists in order.
 package basic
 
 import (
 	"cmp"
+	"sort"
 	"strconv"
 	"strings"
 
@@ -20,11 +21,22 @@ func Window(w api.Window) bool {
 	return 0 <= w.From && w.From <= w.To && w.To <= api.End
 }
 
+// Quality reports whether n is a quality.
+func Quality(n int) bool { return Within(n, api.Good, api.Bad) }
+
+// Value reports whether n is in the range of values.
+func Value(n int) bool { return Within(n, -api.MaxValue, api.MaxValue) }
+
 // Inside reports whether n is in w.
 func Inside(n int, w api.Window) bool { return w.From <= n && n < w.To }
 
 // ByMoment orders samples by time.
 func ByMoment(x, y api.Sample) int { return cmp.Compare(x.At, y.At) }
+
+// Position returns the index of the first sample of a series that is not before a moment.
+func Position(l []api.Sample, at int) int {
+	return sort.Search(len(l), func(i int) bool { return l[i].At >= at })
+}
 
 // Key reports whether s is a key.
 func Key(s string) bool {

@@ -43,6 +43,31 @@ func TestWindows(t *testing.T) {
 	}
 }
 
+func TestQualitiesAndValues(t *testing.T) {
+	for n, want := range map[int]bool{api.Good: true, api.Uncertain: true, api.Bad: true, -1: false, 3: false, math.MinInt: false, math.MaxInt: false} {
+		if basic.Quality(n) != want {
+			t.Errorf("Quality(%d) is not %v", n, want)
+		}
+	}
+	for n, want := range map[int]bool{0: true, api.MaxValue: true, -api.MaxValue: true, api.MaxValue + 1: false, -api.MaxValue - 1: false, math.MinInt: false, math.MaxInt: false} {
+		if basic.Value(n) != want {
+			t.Errorf("Value(%d) is not %v", n, want)
+		}
+	}
+}
+
+func TestPosition(t *testing.T) {
+	l := []api.Sample{{At: 3}, {At: 5}, {At: 9}}
+	for at, want := range map[int]int{math.MinInt: 0, 0: 0, 3: 0, 4: 1, 5: 1, 6: 2, 9: 2, 10: 3, math.MaxInt: 3} {
+		if got := basic.Position(l, at); got != want {
+			t.Errorf("the position of %d is %d, not %d", at, got, want)
+		}
+	}
+	if got := basic.Position(nil, 5); got != 0 {
+		t.Errorf("the position in no samples is %d", got)
+	}
+}
+
 func TestZ11Keys(t *testing.T) {
 	for s, want := range map[string]bool{
 		"a": true, "a0": true, "z9-_": true, "pump-1_a": true, strings.Repeat("a", api.MaxName): true,

@@ -2,7 +2,6 @@ package compress
 
 import (
 	"math/bits"
-	"sort"
 
 	"plantlog/api"
 	"plantlog/basic"
@@ -65,7 +64,7 @@ func Reconstruct(l []api.Sample, at int) (api.Fraction, bool, api.Errno) {
 }
 
 func reconstructed(l []api.Sample, at int) (api.Fraction, bool) {
-	i := sort.Search(len(l), func(i int) bool { return l[i].At >= at })
+	i := basic.Position(l, at)
 	if i == len(l) || l[i].Quality == api.Bad {
 		return api.Fraction{}, false
 	}

@@ -15,12 +15,12 @@ func Scale(l []api.Sample, factor api.Fraction, offset int) ([]api.Sample, api.E
 	if !basic.Lowest(factor) {
 		return nil, api.ErrForm
 	}
-	if !basic.Within(factor.Num, -api.MaxFactor, api.MaxFactor) || factor.Den > api.MaxFactor || !isValue(offset) {
+	if !basic.Within(factor.Num, -api.MaxFactor, api.MaxFactor) || factor.Den > api.MaxFactor || !basic.Value(offset) {
 		return nil, api.ErrArg
 	}
 	return eachValue(l, func(x api.Sample) api.Sample {
 		x.Value = rounded(x.Value*factor.Num+offset*factor.Den, factor.Den)
-		if !isValue(x.Value) {
+		if !basic.Value(x.Value) {
 			return api.Sample{At: x.At, Quality: api.Bad}
 		}
 		return x

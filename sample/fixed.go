@@ -40,7 +40,7 @@ func applied(l []api.Sample, f []api.Fix) ([]api.Sample, api.Errno) {
 		case api.FixDelete:
 			l = without(l, x.At)
 		case api.FixMark:
-			mark(l[position(l, x.Time.From):position(l, x.Time.To)], x.Quality)
+			mark(l[basic.Position(l, x.Time.From):basic.Position(l, x.Time.To)], x.Quality)
 		}
 	}
 	if len(l) > api.MaxSamples {
@@ -52,12 +52,12 @@ func applied(l []api.Sample, f []api.Fix) ([]api.Sample, api.Errno) {
 // with replaces the sample at the moment of x, or adds x.
 func with(l []api.Sample, x api.Sample) []api.Sample {
 	l = without(l, x.At)
-	return slices.Insert(l, position(l, x.At), x)
+	return slices.Insert(l, basic.Position(l, x.At), x)
 }
 
 // without removes the sample at a moment, if there is one.
 func without(l []api.Sample, at int) []api.Sample {
-	return slices.Delete(l, position(l, at), position(l, at+1))
+	return slices.Delete(l, basic.Position(l, at), basic.Position(l, at+1))
 }
 
 func mark(l []api.Sample, quality int) {

@@ -64,7 +64,7 @@ func checkMark(x api.Fix) api.Errno {
 	if !basic.Window(x.Time) || x.Time.From == x.Time.To {
 		return api.ErrArg
 	}
-	if !isQuality(x.Quality) {
+	if !basic.Quality(x.Quality) {
 		return api.ErrKind
 	}
 	return api.OK

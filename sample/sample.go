@@ -3,7 +3,6 @@ package sample
 
 import (
 	"slices"
-	"sort"
 
 	"plantlog/api"
 	"plantlog/basic"
@@ -14,19 +13,15 @@ func CheckSample(x api.Sample) api.Errno {
 	switch {
 	case !basic.Moment(x.At):
 		return api.ErrArg
-	case !isQuality(x.Quality):
+	case !basic.Quality(x.Quality):
 		return api.ErrKind
-	case !isValue(x.Value):
+	case !basic.Value(x.Value):
 		return api.ErrArg
 	case x.Quality == api.Bad && x.Value != 0:
 		return api.ErrForm
 	}
 	return api.OK
 }
-
-func isQuality(n int) bool { return basic.Within(n, api.Good, api.Bad) }
-
-func isValue(n int) bool { return basic.Within(n, -api.MaxValue, api.MaxValue) }
 
 // CheckSeries says what is wrong with a series.
 func CheckSeries(l []api.Sample) api.Errno {
@@ -80,7 +75,7 @@ func Slice(l []api.Sample, w api.Window) ([]api.Sample, api.Errno) {
 	if e := checkWithin(l, w); e != api.OK {
 		return nil, e
 	}
-	return slices.Clone(l[position(l, w.From):position(l, w.To)]), api.OK
+	return slices.Clone(l[basic.Position(l, w.From):basic.Position(l, w.To)]), api.OK
 }
 
 func checkWithin(l []api.Sample, w api.Window) api.Errno {
@@ -91,9 +86,4 @@ func checkWithin(l []api.Sample, w api.Window) api.Errno {
 		return api.ErrArg
 	}
 	return api.OK
-}
-
-// position returns the index of the first sample that is not before a moment.
-func position(l []api.Sample, at int) int {
-	return sort.Search(len(l), func(i int) bool { return l[i].At >= at })
 }
