@@ -24,6 +24,22 @@ func Window(w api.Window) bool {
 // Quality reports whether n is a quality.
 func Quality(n int) bool { return Within(n, api.Good, api.Bad) }
 
+// qualityWords are the words for qualities; their indices are the qualities.
+var qualityWords = [...]string{"good", "uncertain", "bad"}
+
+// QualityWord returns the word for a quality.
+func QualityWord(quality int) string { return qualityWords[quality] }
+
+// QualityNamed returns the quality that a word stands for; false if there is none.
+func QualityNamed(word string) (int, bool) {
+	for quality, name := range qualityWords {
+		if name == word {
+			return quality, true
+		}
+	}
+	return 0, false
+}
+
 // Value reports whether n is in the range of values.
 func Value(n int) bool { return Within(n, -api.MaxValue, api.MaxValue) }
 

@@ -56,6 +56,20 @@ func TestQualitiesAndValues(t *testing.T) {
 	}
 }
 
+func TestQualityWords(t *testing.T) {
+	for n, want := range map[int]string{api.Good: "good", api.Uncertain: "uncertain", api.Bad: "bad"} {
+		word := basic.QualityWord(n)
+		if m, ok := basic.QualityNamed(word); word != want || m != n || !ok {
+			t.Errorf("the word for %d is %q, which stands for %d, %v", n, word, m, ok)
+		}
+	}
+	for _, word := range []string{"", "Good", "good ", "goo", "0"} {
+		if n, ok := basic.QualityNamed(word); n != 0 || ok {
+			t.Errorf("%q stands for %d, %v", word, n, ok)
+		}
+	}
+}
+
 func TestPosition(t *testing.T) {
 	l := []api.Sample{{At: 3}, {At: 5}, {At: 9}}
 	for at, want := range map[int]int{math.MinInt: 0, 0: 0, 3: 0, 4: 1, 5: 1, 6: 2, 9: 2, 10: 3, math.MaxInt: 3} {

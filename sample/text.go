@@ -11,9 +11,6 @@ import (
 // maxDigits is how many digits a number of a text has at most.
 const maxDigits = 15
 
-// qualityNames are the words for qualities; their indices are the qualities.
-var qualityNames = [...]string{"good", "uncertain", "bad"}
-
 // Text writes a line for each sample.
 func Text(l []api.Sample) (string, api.Errno) {
 	if e := CheckSeries(l); e != api.OK {
@@ -21,7 +18,7 @@ func Text(l []api.Sample) (string, api.Errno) {
 	}
 	var text strings.Builder
 	for _, x := range l {
-		text.WriteString(strconv.Itoa(x.At) + " " + strconv.Itoa(x.Value) + " " + qualityNames[x.Quality] + "\n")
+		text.WriteString(strconv.Itoa(x.At) + " " + strconv.Itoa(x.Value) + " " + basic.QualityWord(x.Quality) + "\n")
 	}
 	// The present limits of a series keep its text below this one.
 	if text.Len() > api.MaxText {
@@ -58,15 +55,6 @@ func readLine(line string) (api.Sample, bool) {
 	}
 	at, atOK := basic.Number(words[0], maxDigits)
 	value, valueOK := basic.Number(words[1], maxDigits)
-	quality, qualityOK := qualityNamed(words[2])
+	quality, qualityOK := basic.QualityNamed(words[2])
 	return api.Sample{At: at, Value: value, Quality: quality}, atOK && valueOK && qualityOK
-}
-
-func qualityNamed(word string) (int, bool) {
-	for quality, name := range qualityNames {
-		if name == word {
-			return quality, true
-		}
-	}
-	return 0, false
 }
