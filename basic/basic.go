@@ -1,4 +1,4 @@
-// Package basic has what several chapters share: the rules for numbers, moments, windows, qualities, values and names, and the walk through two lists in order.
+// Package basic has what several chapters share: the rules for numbers, moments, windows, qualities, values, names, series of tags and lines of a text, and the walk through two lists in order.
 package basic
 
 import (
@@ -109,6 +109,65 @@ func Number(s string, most int) (int, bool) {
 		return 0, false
 	}
 	return n, true
+}
+
+// Numbers reads numbers as Number does; false if a word is none.
+func Numbers(words []string, most int) ([]int, bool) {
+	numbers := make([]int, len(words))
+	for i, word := range words {
+		n, ok := Number(word, most)
+		if !ok {
+			return nil, false
+		}
+		numbers[i] = n
+	}
+	return numbers, true
+}
+
+// ReadLines reads a text; read reads a line of it, and says false if the line has not its form. The int is the number of the line for ErrSyntax.
+func ReadLines[T any](text string, read func(line string) (T, bool)) ([]T, int, api.Errno) {
+	if len(text) > api.MaxText {
+		return nil, 0, api.ErrLarge
+	}
+	var list []T
+	for text != "" {
+		line, rest, ended := strings.Cut(text, "\n")
+		x, ok := read(line)
+		if !ended || !ok {
+			return nil, len(list), api.ErrSyntax
+		}
+		list = append(list, x)
+		text = rest
+	}
+	return list, 0, api.OK
+}
+
+// CheckAllSeries says what is wrong with series of tags; check says it of the samples of one.
+func CheckAllSeries(s []api.Series, check func(l []api.Sample) api.Errno) api.Errno {
+	if len(s) > api.MaxTags {
+		return api.ErrLarge
+	}
+	for i, x := range s {
+		if !Key(x.Tag) {
+			return api.ErrName
+		}
+		if i > 0 && x.Tag <= s[i-1].Tag {
+			return api.ErrOrder
+		}
+		if e := check(x.Samples); e != api.OK {
+			return e
+		}
+	}
+	return api.OK
+}
+
+// ByTag returns the samples of each tag.
+func ByTag(s []api.Series) map[string][]api.Sample {
+	samples := map[string][]api.Sample{}
+	for _, x := range s {
+		samples[x.Tag] = x.Samples
+	}
+	return samples
 }
 
 // Align goes through two lists that rise by order: in this order, it calls one for each element that has no equal one in the other list, and both for two equal ones, that of a first.

@@ -191,6 +191,79 @@ func TestZ10Numbers(t *testing.T) {
 	}
 }
 
+func TestNumbers(t *testing.T) {
+	if got, ok := basic.Numbers([]string{"0", "-7", "123"}, 3); fmt.Sprint(got, ok) != "[0 -7 123] true" {
+		t.Errorf("%v, %v", got, ok)
+	}
+	if got, ok := basic.Numbers(nil, 3); len(got) > 0 || !ok {
+		t.Errorf("no numbers are %v, %v", got, ok)
+	}
+	for _, words := range [][]string{{""}, {"x", "1"}, {"1", "-0"}, {"1", "1234", "1"}} {
+		if got, ok := basic.Numbers(words, 3); len(got) > 0 || ok {
+			t.Errorf("%q are %v, %v", words, got, ok)
+		}
+	}
+}
+
+func TestZ9ReadLines(t *testing.T) {
+	read := func(line string) (string, bool) { return "<" + line + ">", line != "no" }
+	for _, c := range []struct {
+		text, list string
+		line       int
+		e          api.Errno
+	}{
+		{"", "[]", 0, api.OK},
+		{"a\n", "[<a>]", 0, api.OK},
+		{"a\n\nb c\r\n", "[<a> <> <b c\r>]", 0, api.OK},
+		{"a", "[]", 0, api.ErrSyntax},
+		{"a\nb", "[]", 1, api.ErrSyntax},
+		{"a\nno\nb", "[]", 1, api.ErrSyntax},
+		{"no\nno\n", "[]", 0, api.ErrSyntax},
+		{strings.Repeat("\n", api.MaxText) + "\n", "[]", 0, api.ErrLarge},
+		{"no\n" + strings.Repeat("x", api.MaxText), "[]", 0, api.ErrLarge},
+		{strings.Repeat("x", api.MaxText-1) + "\n", "[<" + strings.Repeat("x", api.MaxText-1) + ">]", 0, api.OK},
+	} {
+		list, line, e := basic.ReadLines(c.text, read)
+		if fmt.Sprint(list) != c.list || line != c.line || e != c.e {
+			t.Errorf("%.20q is %.20q, line %d, error %d", c.text, list, line, e)
+		}
+	}
+}
+
+func TestCheckAllSeries(t *testing.T) {
+	check := func(l []api.Sample) api.Errno {
+		if len(l) > 1 {
+			return api.ErrFull
+		}
+		return api.OK
+	}
+	for name, c := range map[string]struct {
+		s    []api.Series
+		want api.Errno
+	}{
+		"none":                   {nil, api.OK},
+		"two":                    {[]api.Series{{Tag: "a", Samples: make([]api.Sample, 1)}, {Tag: "b"}}, api.OK},
+		"too many":               {make([]api.Series, api.MaxTags+1), api.ErrLarge},
+		"not too many":           {make([]api.Series, api.MaxTags), api.ErrName},
+		"no key":                 {[]api.Series{{Tag: "a"}, {Tag: "B", Samples: make([]api.Sample, 2)}}, api.ErrName},
+		"a tag twice":            {[]api.Series{{Tag: "a"}, {Tag: "a", Samples: make([]api.Sample, 2)}}, api.ErrOrder},
+		"a lesser tag":           {[]api.Series{{Tag: "b"}, {Tag: "a"}, {}}, api.ErrOrder},
+		"what check says":        {[]api.Series{{Tag: "a"}, {Tag: "b", Samples: make([]api.Sample, 2)}}, api.ErrFull},
+		"what check says before": {[]api.Series{{Tag: "a", Samples: make([]api.Sample, 2)}, {}}, api.ErrFull},
+	} {
+		if e := basic.CheckAllSeries(c.s, check); e != c.want {
+			t.Errorf("%s: error %d", name, e)
+		}
+	}
+}
+
+func TestByTag(t *testing.T) {
+	samples := basic.ByTag([]api.Series{{Tag: "a", Samples: []api.Sample{{At: 5}}}, {Tag: "b"}})
+	if len(samples) != 2 || len(samples["a"]) != 1 || samples["a"][0].At != 5 || len(samples["b"]) != 0 {
+		t.Error(samples)
+	}
+}
+
 func TestAlign(t *testing.T) {
 	for _, c := range []struct {
 		a, b []int

@@ -10,21 +10,7 @@ import (
 )
 
 func checkSeries(series []api.Series) api.Errno {
-	if len(series) > api.MaxTags {
-		return api.ErrLarge
-	}
-	for i, x := range series {
-		if !basic.Key(x.Tag) {
-			return api.ErrName
-		}
-		if i > 0 && x.Tag <= series[i-1].Tag {
-			return api.ErrOrder
-		}
-		if e := sample.CheckSeries(x.Samples); e != api.OK {
-			return e
-		}
-	}
-	return api.OK
+	return basic.CheckAllSeries(series, sample.CheckSeries)
 }
 
 // checkMoment says what is wrong with series, then with a moment.
@@ -36,15 +22,6 @@ func checkMoment(series []api.Series, at int) api.Errno {
 	return e
 }
 
-// byTag returns the samples of each tag.
-func byTag(series []api.Series) map[string][]api.Sample {
-	samples := map[string][]api.Sample{}
-	for _, x := range series {
-		samples[x.Tag] = x.Samples
-	}
-	return samples
-}
-
 // sampled returns what a source returns at a moment as a sample.
 func sampled(s source, at int) api.Sample {
 	v := s(at)
@@ -53,7 +30,7 @@ func sampled(s source, at int) api.Sample {
 
 // evaluated returns the value of an expression at a moment.
 func evaluated(x expression, series []api.Series, at int) api.Sample {
-	return sampled(alone(x).sources(byTag(series))[""], at)
+	return sampled(alone(x).sources(basic.ByTag(series))[""], at)
 }
 
 // Eval evaluates an expression at a moment.
@@ -96,7 +73,7 @@ func Values(c []api.Calc, series []api.Series, at int) ([]api.Pair, api.Errno) {
 	if _, ok := n.needed(n.names()); !ok {
 		return nil, api.ErrFull
 	}
-	sources := n.sources(byTag(series))
+	sources := n.sources(basic.ByTag(series))
 	var pairs []api.Pair
 	for _, name := range n.names() {
 		v := sources[name](at)
@@ -117,7 +94,7 @@ func Moments(s string, series []api.Series, w api.Window) ([]int, api.Errno) {
 	if !basic.Window(w) {
 		return nil, api.ErrArg
 	}
-	moments, _ := alone(x).moments(x.tags, byTag(series), w, math.MaxInt)
+	moments, _ := alone(x).moments(x.tags, basic.ByTag(series), w, math.MaxInt)
 	return moments, api.OK
 }
 
@@ -142,7 +119,7 @@ func Run(c []api.Calc, series []api.Series, tag string, w api.Window) ([]api.Sam
 	if !ok {
 		return nil, api.ErrFull
 	}
-	samples := byTag(series)
+	samples := basic.ByTag(series)
 	moments, ok := n.moments(list, samples, w, api.MaxSamples)
 	if !ok {
 		return nil, api.ErrLarge

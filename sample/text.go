@@ -29,18 +29,9 @@ func Text(l []api.Sample) (string, api.Errno) {
 
 // Read reads samples.
 func Read(text string) ([]api.Sample, int, api.Errno) {
-	if len(text) > api.MaxText {
-		return nil, 0, api.ErrLarge
-	}
-	var l []api.Sample
-	for text != "" {
-		line, rest, ended := strings.Cut(text, "\n")
-		x, ok := readLine(line)
-		if !ended || !ok {
-			return nil, len(l), api.ErrSyntax
-		}
-		l = append(l, x)
-		text = rest
+	l, line, e := basic.ReadLines(text, readLine)
+	if e != api.OK {
+		return nil, line, e
 	}
 	if e := CheckSeries(l); e != api.OK {
 		return nil, 0, e
@@ -53,8 +44,10 @@ func readLine(line string) (api.Sample, bool) {
 	if len(words) != 3 {
 		return api.Sample{}, false
 	}
-	at, atOK := basic.Number(words[0], maxDigits)
-	value, valueOK := basic.Number(words[1], maxDigits)
-	quality, qualityOK := basic.QualityNamed(words[2])
-	return api.Sample{At: at, Value: value, Quality: quality}, atOK && valueOK && qualityOK
+	numbers, ok := basic.Numbers(words[:2], maxDigits)
+	quality, named := basic.QualityNamed(words[2])
+	if !ok || !named {
+		return api.Sample{}, false
+	}
+	return api.Sample{At: numbers[0], Value: numbers[1], Quality: quality}, true
 }
