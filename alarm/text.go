@@ -9,10 +9,7 @@ import (
 	"plantlog/basic"
 )
 
-const (
-	maxDigits = 15  // of a number of a text
-	noParent  = "-" // in a text; no key is this
-)
+const noParent = "-" // in a text; no key is this
 
 // kindWords are the words for kinds; the first one is that of kind 1.
 var kindWords = [...]string{"high", "low", "bad"}
@@ -76,7 +73,7 @@ func readLine(line string) (api.Alarm, bool) {
 		return api.Alarm{}, false
 	}
 	kind, named := kindNamed(words[2])
-	n, ok := basic.Numbers(words[3:9], maxDigits)
+	n, ok := basic.Numbers(words[3:9], basic.MaxDigits)
 	if !named || !ok || !basic.Within(n[5], 0, 1) {
 		return api.Alarm{}, false
 	}

@@ -10,6 +10,9 @@ import (
 	"plantlog/api"
 )
 
+// MaxDigits is how many digits a number of a text has at most, where a chapter does not say otherwise.
+const MaxDigits = 15
+
 // Within reports whether n is from low to high.
 func Within(n, low, high int) bool { return low <= n && n <= high }
 
@@ -42,6 +45,19 @@ func QualityNamed(word string) (int, bool) {
 
 // Value reports whether n is in the range of values.
 func Value(n int) bool { return Within(n, -api.MaxValue, api.MaxValue) }
+
+// SampleOf reads a sample from the words of its line in a text; false if they do not have this form.
+func SampleOf(words []string) (api.Sample, bool) {
+	if len(words) != 3 {
+		return api.Sample{}, false
+	}
+	numbers, ok := Numbers(words[:2], MaxDigits)
+	quality, named := QualityNamed(words[2])
+	if !ok || !named {
+		return api.Sample{}, false
+	}
+	return api.Sample{At: numbers[0], Value: numbers[1], Quality: quality}, true
+}
 
 // Inside reports whether n is in w.
 func Inside(n int, w api.Window) bool { return w.From <= n && n < w.To }
@@ -93,7 +109,16 @@ func divisor(a, b int) int {
 // Distance returns by how much two numbers differ, if that is an int.
 func Distance(a, b int) int { return max(a-b, b-a) }
 
-// OnLine returns the value at a moment on the straight line between two samples. It is exact: by the limits of samples, all products are far below the greatest int.
+// Floor returns a fraction, rounded down.
+func Floor(f api.Fraction) int {
+	whole := f.Num / f.Den
+	if f.Num%f.Den < 0 {
+		whole--
+	}
+	return whole
+}
+
+// OnLine returns the value at a moment on the straight line between two samples. It is exact: for values up to MaxSkew, all products are below the greatest int.
 func OnLine(p, n api.Sample, at int) api.Fraction {
 	long := n.At - p.At
 	return Reduced(p.Value*long+(n.Value-p.Value)*(at-p.At), long)

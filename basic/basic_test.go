@@ -151,6 +151,28 @@ func TestDistance(t *testing.T) {
 	}
 }
 
+func TestFloor(t *testing.T) {
+	for f, want := range map[api.Fraction]int{
+		{Num: 0, Den: 1}:                            0,
+		{Num: 7, Den: 1}:                            7,
+		{Num: -7, Den: 1}:                           -7,
+		{Num: 7, Den: 2}:                            3,
+		{Num: -7, Den: 2}:                           -4,
+		{Num: 1, Den: 3}:                            0,
+		{Num: -1, Den: 3}:                           -1,
+		{Num: math.MinInt, Den: 1}:                  math.MinInt,
+		{Num: math.MinInt, Den: math.MaxInt}:        -2,
+		{Num: -math.MaxInt, Den: math.MaxInt - 1}:   -2,
+		{Num: math.MaxInt, Den: math.MaxInt - 1}:    1,
+		{Num: math.MaxInt - 1, Den: math.MaxInt}:    0,
+		{Num: -(math.MaxInt - 1), Den: math.MaxInt}: -1,
+	} {
+		if got := basic.Floor(f); got != want {
+			t.Errorf("Floor(%v) is %d", f, got)
+		}
+	}
+}
+
 func TestOnLine(t *testing.T) {
 	const half = api.End/2 - 1
 	for _, c := range []struct {
@@ -164,6 +186,7 @@ func TestOnLine(t *testing.T) {
 		{api.Sample{At: 10, Value: -5}, api.Sample{At: 14, Value: 5}, 12, api.Fraction{Num: 0, Den: 1}},
 		{api.Sample{At: 0, Value: api.MaxValue}, api.Sample{At: 2 * half, Value: -api.MaxValue}, half, api.Fraction{Num: 0, Den: 1}},
 		{api.Sample{At: 0, Value: -api.MaxValue}, api.Sample{At: 2 * half, Value: api.MaxValue}, 2*half - 1, api.Fraction{Num: api.MaxValue*half - api.MaxValue, Den: half}},
+		{api.Sample{At: 0, Value: api.MaxSkew}, api.Sample{At: 2 * half, Value: -api.MaxSkew}, 2*half - 1, api.Fraction{Num: api.MaxSkew - api.MaxSkew*half, Den: half}},
 	} {
 		want := basic.Reduced(c.want.Num, c.want.Den)
 		if got := basic.OnLine(c.p, c.n, c.at); got != want {
@@ -201,6 +224,26 @@ func TestNumbers(t *testing.T) {
 	for _, words := range [][]string{{""}, {"x", "1"}, {"1", "-0"}, {"1", "1234", "1"}} {
 		if got, ok := basic.Numbers(words, 3); len(got) > 0 || ok {
 			t.Errorf("%q are %v, %v", words, got, ok)
+		}
+	}
+}
+
+func TestSampleOf(t *testing.T) {
+	for line, want := range map[string]api.Sample{
+		"5 50 good":                        {At: 5, Value: 50},
+		"0 -7 uncertain":                   {Value: -7, Quality: api.Uncertain},
+		"9 0 bad":                          {At: 9, Quality: api.Bad},
+		"-123456789012345 1 bad":           {At: -123456789012345, Value: 1, Quality: api.Bad},
+		"123456789012345 -1 good":          {At: 123456789012345, Value: -1},
+		"345686399999 123456789012345 bad": {At: api.End - 1, Value: 123456789012345, Quality: api.Bad},
+	} {
+		if got, ok := basic.SampleOf(strings.Split(line, " ")); got != want || !ok {
+			t.Errorf("%q is %v, %v", line, got, ok)
+		}
+	}
+	for _, line := range []string{"", "5", "5 50", "5 50 good good", "5 50 ", " 50 good", "5  good", "5 50 Good", "5 50 0", "05 50 good", "5 -0 good", "1234567890123456 50 good", "5 1234567890123456 good", "good 5 50", "x 50 good", "5 x good"} {
+		if got, ok := basic.SampleOf(strings.Split(line, " ")); got != (api.Sample{}) || ok {
+			t.Errorf("%q is %v, %v", line, got, ok)
 		}
 	}
 }

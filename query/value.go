@@ -66,9 +66,6 @@ func Change(l []api.Sample, stepped bool, w api.Window) (int, bool, api.Errno) {
 
 // thousandths returns how many thousandths a fraction is, rounded down. It takes the whole and the rest apart, as 1000 times the numerator may be greater than the greatest int.
 func thousandths(f api.Fraction) int {
-	whole, rest := f.Num/f.Den, f.Num%f.Den
-	if rest < 0 {
-		whole, rest = whole-1, rest+f.Den
-	}
-	return 1000*whole + 1000*rest/f.Den
+	whole := basic.Floor(f)
+	return 1000*whole + 1000*(f.Num-whole*f.Den)/f.Den
 }

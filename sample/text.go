@@ -8,9 +8,6 @@ import (
 	"plantlog/basic"
 )
 
-// maxDigits is how many digits a number of a text has at most.
-const maxDigits = 15
-
 // Text writes a line for each sample.
 func Text(l []api.Sample) (string, api.Errno) {
 	if e := CheckSeries(l); e != api.OK {
@@ -39,15 +36,4 @@ func Read(text string) ([]api.Sample, int, api.Errno) {
 	return l, 0, api.OK
 }
 
-func readLine(line string) (api.Sample, bool) {
-	words := strings.Split(line, " ")
-	if len(words) != 3 {
-		return api.Sample{}, false
-	}
-	numbers, ok := basic.Numbers(words[:2], maxDigits)
-	quality, named := basic.QualityNamed(words[2])
-	if !ok || !named {
-		return api.Sample{}, false
-	}
-	return api.Sample{At: numbers[0], Value: numbers[1], Quality: quality}, true
-}
+func readLine(line string) (api.Sample, bool) { return basic.SampleOf(strings.Split(line, " ")) }
