@@ -1,4 +1,4 @@
-// Package basic has what several chapters share: the rules for numbers, moments, windows, qualities, values, names, series of tags and lines of a text, and the walk through two lists in order.
+// Package basic has what several chapters share: the rules for numbers, moments, windows, qualities, values, names, samples in words, series of tags and lines of a text, and the walk through two lists in order.
 package basic
 
 import (
