@@ -1,8 +1,9 @@
-// Package basic has what several chapters share: the rules for numbers, moments, windows, qualities, values, names, samples in words, series of tags and lines of a text, and the walk through two lists in order.
+// Package basic has what several chapters share: the rules for numbers, fractions, moments, windows, qualities, values, names, samples in words, series of tags and lines of a text, straight lines, the windows in which stepped tags have their values, and the walk through two lists in order.
 package basic
 
 import (
 	"cmp"
+	"iter"
 	"sort"
 	"strconv"
 	"strings"
@@ -23,6 +24,12 @@ func Moment(n int) bool { return Within(n, 0, api.End-1) }
 func Window(w api.Window) bool {
 	return 0 <= w.From && w.From <= w.To && w.To <= api.End
 }
+
+// Lasting reports whether w lies within all moments, and is not empty.
+func Lasting(w api.Window) bool { return Window(w) && w.From < w.To }
+
+// Long returns how many milliseconds a window has.
+func Long(w api.Window) int { return w.To - w.From }
 
 // Quality reports whether n is a quality.
 func Quality(n int) bool { return Within(n, api.Good, api.Bad) }
@@ -68,6 +75,25 @@ func ByMoment(x, y api.Sample) int { return cmp.Compare(x.At, y.At) }
 // Position returns the index of the first sample of a series that is not before a moment.
 func Position(l []api.Sample, at int) int {
 	return sort.Search(len(l), func(i int) bool { return l[i].At >= at })
+}
+
+// Runs goes through the values with a quality at most worst that a stepped tag has within a window, each with when it has it.
+func Runs(l []api.Sample, w api.Window, worst int) iter.Seq2[int, api.Window] {
+	return func(yield func(value int, run api.Window) bool) {
+		if Long(w) == 0 {
+			return
+		}
+		first := max(Position(l, w.From+1)-1, 0)
+		for i, x := range l[first:Position(l, w.To)] {
+			run := api.Window{From: max(x.At, w.From), To: w.To}
+			if next := first + i + 1; next < len(l) {
+				run.To = min(l[next].At, w.To)
+			}
+			if x.Quality <= worst && !yield(x.Value, run) {
+				return
+			}
+		}
+	}
 }
 
 // Key reports whether s is a key.
@@ -116,6 +142,12 @@ func Floor(f api.Fraction) int {
 		whole--
 	}
 	return whole
+}
+
+// Thousandths returns how many thousandths a fraction is, rounded down. It takes the whole and the rest apart, as 1000 times the numerator may be greater than the greatest int.
+func Thousandths(f api.Fraction) int {
+	whole := Floor(f)
+	return 1000*whole + 1000*(f.Num-whole*f.Den)/f.Den
 }
 
 // OnLine returns the value at a moment on the straight line between two samples. It is exact: for values up to MaxSkew, all products are below the greatest int.

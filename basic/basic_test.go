@@ -35,7 +35,26 @@ func TestWindows(t *testing.T) {
 			t.Errorf("Window(%v) is not %v", w, want)
 		}
 	}
+	for w, want := range map[api.Window]bool{
+		{From: 0, To: 1}:                     true,
+		{From: 0, To: api.End}:               true,
+		{From: api.End - 1, To: api.End}:     true,
+		{}:                                   false,
+		{From: api.End, To: api.End}:         false,
+		{From: 5, To: 4}:                     false,
+		{From: -1, To: 4}:                    false,
+		{From: 0, To: api.End + 1}:           false,
+		{From: math.MinInt, To: math.MaxInt}: false,
+		{From: math.MaxInt, To: math.MinInt}: false,
+	} {
+		if basic.Lasting(w) != want {
+			t.Errorf("Lasting(%v) is not %v", w, want)
+		}
+	}
 	w := api.Window{From: 3, To: 5}
+	if n := basic.Long(w); n != 2 {
+		t.Errorf("%v is %d long", w, n)
+	}
 	for n, want := range map[int]bool{2: false, 3: true, 4: true, 5: false} {
 		if basic.Inside(n, w) != want {
 			t.Errorf("Inside(%d, %v) is not %v", n, w, want)
@@ -79,6 +98,46 @@ func TestPosition(t *testing.T) {
 	}
 	if got := basic.Position(nil, 5); got != 0 {
 		t.Errorf("the position in no samples is %d", got)
+	}
+}
+
+func TestRuns(t *testing.T) {
+	l := []api.Sample{{At: 5, Value: 1}, {At: 10, Value: 1}, {At: 20, Quality: api.Bad}, {At: 30, Value: 7, Quality: api.Uncertain}, {At: 40, Value: 2}}
+	for _, c := range []struct {
+		from, to, worst int
+		want            string
+	}{
+		{0, 50, api.Uncertain, " 1:5-10 1:10-20 7:30-40 2:40-50"},
+		{0, 50, api.Good, " 1:5-10 1:10-20 2:40-50"},
+		{0, 50, api.Bad, " 1:5-10 1:10-20 0:20-30 7:30-40 2:40-50"},
+		{7, 33, api.Uncertain, " 1:7-10 1:10-20 7:30-33"},
+		{5, 10, api.Uncertain, " 1:5-10"},
+		{10, 11, api.Uncertain, " 1:10-11"},
+		{0, 5, api.Uncertain, ""},
+		{20, 30, api.Uncertain, ""},
+		{10, 10, api.Uncertain, ""},
+		{100, api.End, api.Uncertain, " 2:100-345686400000"},
+	} {
+		got := ""
+		for value, run := range basic.Runs(l, api.Window{From: c.from, To: c.to}, c.worst) {
+			got += fmt.Sprintf(" %d:%d-%d", value, run.From, run.To)
+		}
+		if got != c.want {
+			t.Errorf("from %d to %d, %d at worst: %q", c.from, c.to, c.worst, got)
+		}
+	}
+	for range basic.Runs(nil, api.Window{From: 0, To: 10}, api.Bad) {
+		t.Error("a value of no samples")
+	}
+	count := 0
+	for range basic.Runs(l, api.Window{From: 0, To: 50}, api.Bad) {
+		count++
+		if count == 2 {
+			break
+		}
+	}
+	if count != 2 {
+		t.Errorf("%d values before the end", count)
 	}
 }
 
@@ -169,6 +228,35 @@ func TestFloor(t *testing.T) {
 	} {
 		if got := basic.Floor(f); got != want {
 			t.Errorf("Floor(%v) is %d", f, got)
+		}
+	}
+}
+
+func TestThousandths(t *testing.T) {
+	for f, want := range map[api.Fraction]int{
+		{Num: 0, Den: 1}:                              0,
+		{Num: 7, Den: 1}:                              7000,
+		{Num: -7, Den: 1}:                             -7000,
+		{Num: 2, Den: 3}:                              666,
+		{Num: -2, Den: 3}:                             -667,
+		{Num: 5, Den: 3}:                              1666,
+		{Num: -5, Den: 3}:                             -1667,
+		{Num: 1, Den: 1001}:                           0,
+		{Num: -1, Den: 1001}:                          -1,
+		{Num: 1, Den: 1000}:                           1,
+		{Num: 999, Den: 1000}:                         999,
+		{Num: -999, Den: 1000}:                        -999,
+		{Num: 9_999, Den: 10_000}:                     999,
+		{Num: -9_999, Den: 10_000}:                    -1000,
+		{Num: 1, Den: api.End}:                        0,
+		{Num: -1, Den: api.End}:                       -1,
+		{Num: api.MaxValue, Den: 1}:                   1000 * api.MaxValue,
+		{Num: -api.MaxValue, Den: 1}:                  -1000 * api.MaxValue,
+		{Num: api.MaxValue*api.End - 1, Den: api.End}: 1000*api.MaxValue - 1,
+		{Num: 1 - api.MaxValue*api.End, Den: api.End}: -1000 * api.MaxValue,
+	} {
+		if got := basic.Thousandths(f); got != want {
+			t.Errorf("%v is %d thousandths, not %d", f, got, want)
 		}
 	}
 }

@@ -9,28 +9,9 @@ import (
 	"plantlog/basic"
 )
 
-// runs goes through the values with a quality at most worst that a tag has within a window, each with when it has it.
-func runs(l []api.Sample, w api.Window, worst int) iter.Seq2[int, api.Window] {
-	return func(yield func(value int, run api.Window) bool) {
-		if long(w) == 0 {
-			return
-		}
-		first := max(basic.Position(l, w.From+1)-1, 0)
-		for i, x := range l[first:basic.Position(l, w.To)] {
-			run := api.Window{From: max(x.At, w.From), To: w.To}
-			if next := first + i + 1; next < len(l) {
-				run.To = min(l[next].At, w.To)
-			}
-			if x.Quality <= worst && !yield(x.Value, run) {
-				return
-			}
-		}
-	}
-}
-
 // valued goes through the valued time of a window.
 func valued(l []api.Sample, w api.Window) iter.Seq2[int, api.Window] {
-	return runs(l, w, api.Uncertain)
+	return basic.Runs(l, w, api.Uncertain)
 }
 
 // aggregated returns the integral over a window, and its other aggregates.
@@ -41,8 +22,8 @@ func aggregated(l []api.Sample, w api.Window) (int, api.Bucket) {
 			b.Minimum, b.Maximum = value, value
 		}
 		b.Minimum, b.Maximum = min(b.Minimum, value), max(b.Maximum, value)
-		b.Good += long(run)
-		sum += value * long(run)
+		b.Good += basic.Long(run)
+		sum += value * basic.Long(run)
 	}
 	if b.Good > 0 {
 		b.Average = basic.Reduced(sum, b.Good)
@@ -99,8 +80,8 @@ func Median(l []api.Sample, w api.Window) (int, bool, api.Errno) {
 	var stays []stay
 	total := 0
 	for value, run := range valued(l, w) {
-		stays = append(stays, stay{value, long(run)})
-		total += long(run)
+		stays = append(stays, stay{value, basic.Long(run)})
+		total += basic.Long(run)
 	}
 	slices.SortFunc(stays, func(x, y stay) int { return cmp.Compare(x.value, y.value) })
 	so := 0
@@ -123,8 +104,8 @@ func GoodTime(l []api.Sample, w api.Window, worst int) (int, api.Errno) {
 		return 0, api.ErrKind
 	}
 	good := 0
-	for _, run := range runs(l, w, worst) {
-		good += long(run)
+	for _, run := range basic.Runs(l, w, worst) {
+		good += basic.Long(run)
 	}
 	return good, api.OK
 }
@@ -143,7 +124,7 @@ func Above(l []api.Sample, w api.Window, limit int) ([]api.Window, int, api.Errn
 	for value, run := range valued(l, w) {
 		if value > limit {
 			above = joined(above, run)
-			total += long(run)
+			total += basic.Long(run)
 		}
 	}
 	return above, total, api.OK
@@ -171,9 +152,9 @@ func Compare(a, b []api.Sample, w api.Window, within int) (int, int, api.Errno) 
 	both, apart := 0, 0
 	for x, run := range valued(a, w) {
 		for y, common := range valued(b, run) {
-			both += long(common)
+			both += basic.Long(common)
 			if basic.Distance(x, y) > within {
-				apart += long(common)
+				apart += basic.Long(common)
 			}
 		}
 	}

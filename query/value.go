@@ -61,11 +61,5 @@ func Change(l []api.Sample, stepped bool, w api.Window) (int, bool, api.Errno) {
 	if !fromOK || !toOK || from.Quality == api.Bad || to.Quality == api.Bad {
 		return 0, false, api.OK
 	}
-	return thousandths(to.Value) - thousandths(from.Value), true, api.OK
-}
-
-// thousandths returns how many thousandths a fraction is, rounded down. It takes the whole and the rest apart, as 1000 times the numerator may be greater than the greatest int.
-func thousandths(f api.Fraction) int {
-	whole := basic.Floor(f)
-	return 1000*whole + 1000*(f.Num-whole*f.Den)/f.Den
+	return basic.Thousandths(to.Value) - basic.Thousandths(from.Value), true, api.OK
 }

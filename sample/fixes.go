@@ -61,7 +61,7 @@ func checkMoment(at int) api.Errno {
 }
 
 func checkMark(x api.Fix) api.Errno {
-	if !basic.Window(x.Time) || x.Time.From == x.Time.To {
+	if !basic.Lasting(x.Time) {
 		return api.ErrArg
 	}
 	if !basic.Quality(x.Quality) {
