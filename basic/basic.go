@@ -1,4 +1,4 @@
-// Package basic has what several chapters share: the rules for numbers, fractions, moments, windows, qualities, values, names, samples in words, series of tags and lines of a text, straight lines, the windows in which stepped tags have their values, and the walk through two lists in order.
+// Package basic has what several chapters share: the rules for numbers, fractions, moments, windows, qualities, values, names, lists with keys, parents, samples in words, series of tags and lines of a text, straight lines, the moments at which series differ, the windows in which stepped tags have their values, and the walk through two lists in order.
 package basic
 
 import (
@@ -75,6 +75,18 @@ func ByMoment(x, y api.Sample) int { return cmp.Compare(x.At, y.At) }
 // Position returns the index of the first sample of a series that is not before a moment.
 func Position(l []api.Sample, at int) int {
 	return sort.Search(len(l), func(i int) bool { return l[i].At >= at })
+}
+
+// Differing returns the moments at which two series have different samples, or only one of them has a sample, rising.
+func Differing(a, b []api.Sample) []int {
+	var moments []int
+	add := func(x api.Sample) { moments = append(moments, x.At) }
+	Align(a, b, ByMoment, add, func(x, y api.Sample) {
+		if x != y {
+			add(x)
+		}
+	})
+	return moments
 }
 
 // Runs goes through the values with a quality at most worst that a stepped tag has within a window, each with when it has it.
@@ -199,20 +211,46 @@ func ReadLines[T any](text string, read func(line string) (T, bool)) ([]T, int, 
 	return list, 0, api.OK
 }
 
-// CheckAllSeries says what is wrong with series of tags; check says it of the samples of one.
-func CheckAllSeries(s []api.Series, check func(l []api.Sample) api.Errno) api.Errno {
-	if len(s) > api.MaxTags {
+// CheckKeyed says what is wrong with a list of at most `most` elements that rise by their keys; check says what else is wrong with one.
+func CheckKeyed[T any](l []T, most int, key func(x T) string, check func(x T) api.Errno) api.Errno {
+	if len(l) > most {
 		return api.ErrLarge
 	}
-	for i, x := range s {
-		if !Key(x.Tag) {
+	for i, x := range l {
+		if !Key(key(x)) {
 			return api.ErrName
 		}
-		if i > 0 && x.Tag <= s[i-1].Tag {
+		if i > 0 && key(x) <= key(l[i-1]) {
 			return api.ErrOrder
 		}
-		if e := check(x.Samples); e != api.OK {
+		if e := check(x); e != api.OK {
 			return e
+		}
+	}
+	return api.OK
+}
+
+// CheckAllSeries says what is wrong with series of tags; check says it of the samples of one.
+func CheckAllSeries(s []api.Series, check func(l []api.Sample) api.Errno) api.Errno {
+	tag := func(x api.Series) string { return x.Tag }
+	return CheckKeyed(s, api.MaxTags, tag, func(x api.Series) api.Errno { return check(x.Samples) })
+}
+
+// CheckParents says what is wrong with parents, each by the key of what it is the parent of; an empty one is none.
+func CheckParents(parents map[string]string) api.Errno {
+	for _, parent := range parents {
+		if _, ok := parents[parent]; parent != "" && !ok {
+			return api.ErrNone
+		}
+	}
+	for key := range parents {
+		steps := 0
+		for above := parents[key]; above != ""; above = parents[above] {
+			steps++
+			// Who has more parents above than there are keys goes round in a loop.
+			if steps > len(parents) {
+				return api.ErrLoop
+			}
 		}
 	}
 	return api.OK

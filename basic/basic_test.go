@@ -390,6 +390,77 @@ func TestCheckAllSeries(t *testing.T) {
 	}
 }
 
+func TestCheckKeyed(t *testing.T) {
+	type element struct {
+		key string
+		e   api.Errno
+	}
+	for name, c := range map[string]struct {
+		l    []element
+		want api.Errno
+	}{
+		"none":                         {nil, api.OK},
+		"as many as can be":            {[]element{{"a", api.OK}, {"b", api.OK}, {"c", api.OK}}, api.OK},
+		"too many":                     {make([]element, 4), api.ErrLarge},
+		"no key":                       {[]element{{"a", api.OK}, {"B", api.ErrFull}}, api.ErrName},
+		"a key twice":                  {[]element{{"a", api.OK}, {"a", api.ErrFull}}, api.ErrOrder},
+		"a lesser key":                 {[]element{{"b", api.OK}, {"a", api.ErrFull}, {}}, api.ErrOrder},
+		"what check says":              {[]element{{"a", api.OK}, {"b", api.ErrFull}}, api.ErrFull},
+		"what check says of the first": {[]element{{"b", api.ErrLoop}, {"c", api.ErrFull}, {"a", api.OK}}, api.ErrLoop},
+	} {
+		e := basic.CheckKeyed(c.l, 3, func(x element) string { return x.key }, func(x element) api.Errno { return x.e })
+		if e != c.want {
+			t.Errorf("%s: error %d", name, e)
+		}
+	}
+}
+
+func TestCheckParents(t *testing.T) {
+	chain := map[string]string{"0": ""}
+	for i := range 200 {
+		chain[fmt.Sprint(i+1)] = fmt.Sprint(i)
+	}
+	for name, c := range map[string]struct {
+		parents map[string]string
+		want    api.Errno
+	}{
+		"none":                   {nil, api.OK},
+		"without parents":        {map[string]string{"a": "", "b": ""}, api.OK},
+		"a tree":                 {map[string]string{"a": "", "b": "a", "c": "a", "d": "c"}, api.OK},
+		"a long chain":           {chain, api.OK},
+		"no such parent":         {map[string]string{"a": "", "b": "c"}, api.ErrNone},
+		"no such one and a loop": {map[string]string{"a": "a", "b": "c"}, api.ErrNone},
+		"its own parent":         {map[string]string{"a": "", "b": "b"}, api.ErrLoop},
+		"over another one":       {map[string]string{"a": "b", "b": "a"}, api.ErrLoop},
+		"over all":               {map[string]string{"a": "b", "b": "c", "c": "a"}, api.ErrLoop},
+		"under a loop":           {map[string]string{"a": "b", "b": "b"}, api.ErrLoop},
+	} {
+		if e := basic.CheckParents(c.parents); e != c.want {
+			t.Errorf("%s: error %d", name, e)
+		}
+	}
+}
+
+func TestDiffering(t *testing.T) {
+	l := []api.Sample{{At: 1, Value: 5}, {At: 3, Quality: api.Bad}, {At: 4, Value: 7}}
+	for name, c := range map[string]struct {
+		a, b []api.Sample
+		want string
+	}{
+		"nothing":         {nil, nil, "[]"},
+		"the same":        {l, l, "[]"},
+		"all":             {l, nil, "[1 3 4]"},
+		"all, of b":       {nil, l, "[1 3 4]"},
+		"another value":   {l, []api.Sample{{At: 1, Value: 6}, l[1], l[2]}, "[1]"},
+		"another quality": {l, []api.Sample{{At: 1, Value: 5, Quality: api.Uncertain}, l[1], l[2]}, "[1]"},
+		"another moment":  {l, []api.Sample{l[0], {At: 2, Quality: api.Bad}, l[2], {At: 9}}, "[2 3 9]"},
+	} {
+		if got := fmt.Sprint(basic.Differing(c.a, c.b)); got != c.want {
+			t.Errorf("%s: %s", name, got)
+		}
+	}
+}
+
 func TestByTag(t *testing.T) {
 	samples := basic.ByTag([]api.Series{{Tag: "a", Samples: []api.Sample{{At: 5}}}, {Tag: "b"}})
 	if len(samples) != 2 || len(samples["a"]) != 1 || samples["a"][0].At != 5 || len(samples["b"]) != 0 {

@@ -64,12 +64,14 @@ func originOf(x api.Arrival) origin { return origin{x.Node, x.Packet.Seq} }
 
 // inConflict reports whether two packets of one node have the same number.
 func inConflict(l []api.Arrival) bool {
-	packets := map[origin]api.Packet{}
-	for _, x := range l {
-		if first, ok := packets[originOf(x)]; ok && first != x.Packet {
+	places := make(map[origin]int, len(l)) // where packets are for the first time
+	for i, x := range l {
+		first, known := places[originOf(x)]
+		if !known {
+			places[originOf(x)] = i
+		} else if l[first].Packet != x.Packet {
 			return true
 		}
-		packets[originOf(x)] = x.Packet
 	}
 	return false
 }

@@ -97,21 +97,8 @@ func checkStored(l []api.Arrival, clocks []api.NodeClock, tag string) api.Errno 
 }
 
 func checkClocks(clocks []api.NodeClock) api.Errno {
-	if len(clocks) > api.MaxNodes {
-		return api.ErrLarge
-	}
-	for i, x := range clocks {
-		if !basic.Key(x.Node) {
-			return api.ErrName
-		}
-		if i > 0 && x.Node <= clocks[i-1].Node {
-			return api.ErrOrder
-		}
-		if e := CheckClock(x.Clock); e != api.OK {
-			return e
-		}
-	}
-	return api.OK
+	node := func(x api.NodeClock) string { return x.Node }
+	return basic.CheckKeyed(clocks, api.MaxNodes, node, func(x api.NodeClock) api.Errno { return CheckClock(x.Clock) })
 }
 
 // correction returns a function that returns the sample of an arrival at the server's time.

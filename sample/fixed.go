@@ -137,16 +137,5 @@ func Changes(l []api.Sample, f []api.Fix, from, to int) ([]int, api.Errno) {
 	if e != api.OK {
 		return nil, e
 	}
-	return differing(before, after), api.OK
-}
-
-func differing(a, b []api.Sample) []int {
-	var moments []int
-	add := func(x api.Sample) { moments = append(moments, x.At) }
-	basic.Align(a, b, basic.ByMoment, add, func(x, y api.Sample) {
-		if x != y {
-			add(x)
-		}
-	})
-	return moments
+	return basic.Differing(before, after), api.OK
 }
